@@ -63,28 +63,38 @@ func GetInt(b []byte, at int) (int, int, bool) {
 	return n, next, code == FrameGood
 }
 
-// scanInt also tells why there is no number, since a frame that ends early is another thing than a wrong one: FrameEnd when b ends within its groups, however many there are, FrameForm else.
+// scanInt also tells why there is no number, since a frame that ends early is another thing than a wrong one: FrameEnd only when more bytes could still make one of it, FrameForm else.
 func scanInt(b []byte, at int) (int, int, int) {
 	if at < 0 || at > len(b) {
 		return 0, 0, FrameForm
 	}
-	for i := at; i < len(b); i++ {
-		if b[i] >= moreGroups {
-			continue
-		}
-		m, ok := joinGroups(b[at : i+1])
-		if !ok {
-			return 0, 0, FrameForm
-		}
-		return unfoldSign(m), i + 1, FrameGood
+	size := countGroups(b[at:])
+	switch {
+	case size > maxGroups:
+		return 0, 0, FrameForm
+	case size > len(b)-at:
+		return 0, 0, FrameEnd
 	}
-	return 0, 0, FrameEnd
+	m, ok := joinGroups(b[at : at+size])
+	if !ok {
+		return 0, 0, FrameForm
+	}
+	return unfoldSign(m), at + size, FrameGood
+}
+
+// countGroups counts, too, the group that is still to come where b ends: that is what makes too many groups known ahead of their end.
+func countGroups(b []byte) int {
+	size := 1
+	for size <= min(maxGroups, len(b)) && b[size-1] >= moreGroups {
+		size++
+	}
+	return size
 }
 
 // joinGroups refuses a last group of several that is 0, so that each number has only one form.
 func joinGroups(groups []byte) (int, bool) {
 	last := len(groups) - 1
-	if last >= maxGroups || last > 0 && groups[last] == 0 {
+	if last > 0 && groups[last] == 0 {
 		return 0, false
 	}
 	m := 0

@@ -310,7 +310,10 @@ func TestUnframeRefuses(t *testing.T) {
 		{"last group 0", "\x80\x00\x00\x00\x00\x00", 0, impl.FrameForm}, {"last group 0, and the end", "\x80\x00", 0, impl.FrameForm},
 		{"beyond the most", "\x82\xc0\xa8\xca\x9a\x3a", 0, impl.FrameForm}, {"seven groups", "\x80\x80\x80\x80\x80\x80\x01", 0, impl.FrameForm},
 		{"the number ends early", "\x80", 0, impl.FrameEnd}, {"the number ends early behind five", "\x80\x80\x80\x80\x80", 0, impl.FrameEnd},
-		{"groups without an end", strings.Repeat("\xff", 30), 0, impl.FrameEnd},
+		{"five full groups, and the end", "\xff\xff\xff\xff\xff", 0, impl.FrameEnd}, {"five behind one", "\x02\x80\x80\x80\x80\x80", 1, impl.FrameEnd},
+		{"six groups and more to come", "\x80\x80\x80\x80\x80\x80", 0, impl.FrameForm}, {"six full groups and more to come", "\xff\xff\xff\xff\xff\xff", 0, impl.FrameForm},
+		{"six behind one", "\x02\x80\x80\x80\x80\x80\x80", 1, impl.FrameForm}, {"seven groups, the last 0", "\x80\x80\x80\x80\x80\x80\x00", 0, impl.FrameForm},
+		{"groups without an end", strings.Repeat("\xff", 30), 0, impl.FrameForm}, {"empty groups without an end", strings.Repeat("\x80", 9), 0, impl.FrameForm},
 		{"the longest", "\x80\xc0\xa8\xca\x9a\x3aabcdefgh", 0, impl.FrameEnd},
 		{"no sum", "\x00", 0, impl.FrameEnd}, {"half a sum", "\x02a\x43\xbe\xb7", 0, impl.FrameEnd},
 		{"another sum of nothing", "\x00\x00\x00\x00\x01", 0, impl.FrameSum}, {"the sum turned round", "\x02a\xe8\xb7\xbe\x43", 0, impl.FrameSum},
@@ -322,6 +325,31 @@ func TestUnframeRefuses(t *testing.T) {
 	whole := []byte(good)
 	if _, next, code := impl.Unframe(whole[:7], 0); next != 0 || code != impl.FrameEnd {
 		t.Errorf("bytes behind the length were read: %d %d", next, code)
+	}
+}
+
+// couldBeNumber asks whether one more group that ends the number makes one of a beginning of groups.
+func couldBeNumber(groups []byte) bool {
+	for last := range 128 {
+		if _, _, ok := impl.GetInt(append(bytes.Clone(groups), byte(last)), 0); ok {
+			return true
+		}
+	}
+	return false
+}
+
+func TestUnframeOfNumbersWithoutEnd(t *testing.T) {
+	for size := 1; size <= 12; size++ {
+		for _, group := range []byte{0x80, 0x81, 0xc0, 0xfe, 0xff} {
+			groups := bytes.Repeat([]byte{group}, size)
+			want := impl.FrameForm
+			if couldBeNumber(groups) {
+				want = impl.FrameEnd
+			}
+			if body, next, code := impl.Unframe(groups, 0); len(body) != 0 || next != 0 || code != want {
+				t.Errorf("%x: %x %d %d, want %d", groups, body, next, code, want)
+			}
+		}
 	}
 }
 
