@@ -109,17 +109,35 @@ func plainFrame(body []byte) []byte {
 	return binary.LittleEndian.AppendUint32(out, crc32.ChecksumIEEE(body))
 }
 
+// plainSlot puts a slot's bytes, right or not, behind those of b.
+func plainSlot(b []byte, s impl.Slot) []byte {
+	var inside []byte
+	if s.Has || !alike(s.O, impl.Obj{}) {
+		inside = bytesOf(plainNumbers(s.O)...)
+	}
+	return append(append(b, bytesOf(len(inside))...), inside...)
+}
+
 // plainBody is what stands in a page's frame, right or not.
 func plainBody(p impl.Page) []byte {
 	body := bytesOf(p.Lsn)
 	for _, s := range p.Slots {
-		var inside []byte
-		if s.Has || !alike(s.O, impl.Obj{}) {
-			inside = bytesOf(plainNumbers(s.O)...)
-		}
-		body = append(append(body, bytesOf(len(inside))...), inside...)
+		body = plainSlot(body, s)
 	}
 	return body
+}
+
+// plainSlotAt reads the slot at the beginning of b, and tells how many bytes it has.
+func plainSlotAt(b []byte) (impl.Slot, int, bool) {
+	size, head, ok := plainInt(b)
+	if !ok || size < 0 || size > len(b)-head {
+		return impl.Slot{}, 0, false
+	}
+	if size == 0 {
+		return impl.Slot{}, head, true
+	}
+	o, ok := plainObj(b[head : head+size])
+	return impl.Slot{Has: true, O: o}, head + size, ok
 }
 
 // plainPage reads a page's body: the reading that GetPage is held against.
@@ -130,18 +148,11 @@ func plainPage(body []byte) (impl.Page, bool) {
 	}
 	p := impl.Page{Lsn: lsn}
 	for i := range p.Slots {
-		size, head, ok := plainInt(body[at:])
-		at += head
-		if !ok || size < 0 || size > len(body)-at {
+		s, size, ok := plainSlotAt(body[at:])
+		if !ok {
 			return impl.Page{}, false
 		}
-		if size > 0 {
-			o, ok := plainObj(body[at : at+size])
-			if !ok {
-				return impl.Page{}, false
-			}
-			p.Slots[i] = impl.Slot{Has: true, O: o}
-		}
+		p.Slots[i] = s
 		at += size
 	}
 	if at != len(body) {
