@@ -590,18 +590,52 @@ func TestChainGoesByTheRecordsNotByPrev(t *testing.T) {
 	}
 }
 
-// The chapter names no answer of its own for a log that is none, so what stands there is told.
+// chainTxs are transactions' numbers that are right, those next to them, and the ends of all numbers.
+var chainTxs = []int{1, 2, 3, 4, impl.MaxTx, 0, -1, impl.MaxTx + 1, math.MaxInt64, math.MinInt64}
+
+// The chapter names no answer of its own for a log that is none, nor for any tx, so what stands there is told.
 func TestChainOfWhatIsNoLog(t *testing.T) {
 	for _, l := range wrongLogs() {
-		for tx := 1; tx <= 4; tx++ {
+		for _, tx := range chainTxs {
 			var want []int
 			for _, r := range l.Recs {
-				if r.Tx == tx {
+				if r.Tx == tx && r.Kind != impl.RecCheck {
 					want = append([]int{r.Lsn}, want...)
 				}
 			}
 			if got := impl.Chain(l, tx); !slices.Equal(got, want) {
 				t.Errorf("%d records, sure %d, Tx %d: %v, want %v", len(l.Recs), l.Sure, tx, got, want)
+			}
+		}
+	}
+}
+
+// A RecCheck has no Tx: what stands in that field makes it no transaction's record.
+func TestChainPassesOverChecks(t *testing.T) {
+	for _, tx := range chainTxs {
+		check := impl.Rec{Lsn: 1, Tx: tx, Kind: impl.RecCheck}
+		if got := impl.Chain(impl.Log{Recs: []impl.Rec{check}}, tx); len(got) != 0 {
+			t.Errorf("a check alone, Tx %d: %v", tx, got)
+		}
+		between := impl.Log{Recs: []impl.Rec{check, {Lsn: 2, Tx: tx, Kind: impl.RecAbort}, {Lsn: 3, Tx: tx, Kind: impl.RecCheck}, {Lsn: 4, Tx: tx, Kind: impl.RecEnd}, {Lsn: 5, Tx: tx, Kind: impl.RecCheck}}}
+		if got := impl.Chain(between, tx); !slices.Equal(got, []int{4, 2}) {
+			t.Errorf("checks about the records, Tx %d: %v", tx, got)
+		}
+	}
+}
+
+// A tx that no record that is right could have is asked for like any other, and so is a kind that is none.
+func TestChainOfAnyTxAndKind(t *testing.T) {
+	kinds := []int{impl.RecSet, impl.RecCommit, impl.RecAbort, impl.RecBack, impl.RecEnd, 0, -1, impl.RecCheck + 1, math.MaxInt64, math.MinInt64}
+	for _, tx := range chainTxs {
+		for _, kind := range kinds {
+			l := impl.Log{Recs: []impl.Rec{{Lsn: 1, Tx: tx, Kind: kind}}}
+			if got := impl.Chain(l, tx); !slices.Equal(got, []int{1}) {
+				t.Errorf("one record, Tx %d, kind %d: %v", tx, kind, got)
+			}
+			l.Recs = append(l.Recs, impl.Rec{Lsn: 2, Tx: 7, Kind: kind}, impl.Rec{Lsn: 3, Tx: tx, Kind: impl.RecEnd})
+			if got := impl.Chain(l, tx); !slices.Equal(got, []int{3, 1}) {
+				t.Errorf("another's between, Tx %d, kind %d: %v", tx, kind, got)
 			}
 		}
 	}
